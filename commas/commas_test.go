@@ -7,6 +7,7 @@ import (
 
 	"doorstep/api"
 	"doorstep/octet"
+	"doorstep/samples"
 )
 
 // lists tells whether a call answered what it should: a list, or an error and no list.
@@ -338,28 +339,9 @@ func TestAppendOfEachByte(t *testing.T) {
 	}
 }
 
-// textsOf is every row of units up to a length, one behind the other.
-func textsOf(units []string, most int) []string {
-	all := []string{""}
-	for i := 0; i < len(all); i++ {
-		for _, u := range units {
-			if len(all[i])+len(u) <= most {
-				all = append(all, all[i]+u)
-			}
-		}
-	}
-	return all
-}
-
 // bytesOf is each byte of an alphabet that is not among some others.
 func bytesOf(alphabet, others string) []string {
-	units := []string{}
-	for _, b := range []byte(alphabet) {
-		if strings.IndexByte(others, b) < 0 {
-			units = append(units, string([]byte{b}))
-		}
-	}
-	return units
+	return samples.Bytes(alphabet, func(b byte) bool { return strings.IndexByte(others, b) < 0 })
 }
 
 // escaped is each byte of an alphabet that is not among some others, behind an escape.
@@ -376,7 +358,7 @@ func quotes(alphabet string, most int) []string {
 	// The bytes of the alphabets here are of a value, but for the line's end.
 	units := append(bytesOf(alphabet, "\"\\\n"), escaped(alphabet, "\n")...)
 	all := []string{}
-	for _, s := range textsOf(units, most-2) {
+	for _, s := range samples.Texts(units, most-2) {
 		all = append(all, `"`+s+`"`)
 	}
 	return all
@@ -389,7 +371,7 @@ func comments(alphabet string, most int) []string {
 	}
 	units := slices.Concat(bytesOf(alphabet, `()\`), escaped(alphabet, ""), comments(alphabet, most-2))
 	all := []string{}
-	for _, s := range textsOf(units, most-2) {
+	for _, s := range samples.Texts(units, most-2) {
 		all = append(all, "("+s+")")
 	}
 	return all
@@ -440,7 +422,7 @@ func TestEveryShortText(t *testing.T) {
 	}{{`,"()\`, 7}, {`,"()\a `, 6}, {",\"()\\\n\t", 5}} {
 		all := allLists(t, c.alphabet, c.most)
 		right, wrong := 0, 0
-		for _, s := range textsOf(bytesOf(c.alphabet, ""), c.most) {
+		for _, s := range samples.Texts(bytesOf(c.alphabet, ""), c.most) {
 			want, is := all[s]
 			wantE := api.OK
 			if is {

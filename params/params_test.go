@@ -7,6 +7,7 @@ import (
 
 	"doorstep/api"
 	"doorstep/octet"
+	"doorstep/samples"
 )
 
 // row is params from names and values, by turns.
@@ -52,16 +53,6 @@ func rows(t *testing.T, what string, l, want []api.Param) {
 		t.Errorf("%.80q: %.200q, want %.200q", what, l, want)
 	}
 }
-
-// isBlank, isToken and isValue are classes of bytes, by their numbers and not by octet.
-func isBlank(b byte) bool { return b == 9 || b == 32 }
-
-func isToken(b byte) bool {
-	const letters = "abcdefghijklmnopqrstuvwxyz"
-	return strings.IndexByte(letters+strings.ToUpper(letters)+"0123456789!#$%&'*+-.^_`|~", b) >= 0
-}
-
-func isValue(b byte) bool { return b == 9 || b >= 32 && b != 127 }
 
 // P7.1: a row of one param or more, names as they stand, values as they are meant, blanks about semicolons alone.
 func TestParse(t *testing.T) {
@@ -136,7 +127,7 @@ func TestParseOfEachByte(t *testing.T) {
 				parsed(t, s, nil, api.ErrForm)
 			}
 		}
-		token, blank, value := isToken(byte(n)), isBlank(byte(n)), isValue(byte(n))
+		token, blank, value := samples.IsToken(byte(n)), samples.IsBlank(byte(n)), samples.IsValue(byte(n))
 		check(token, b+"=v", row(b, "v"))
 		check(token, b+"n=v", row(b+"n", "v"))
 		check(token, "n"+b+"=v", row("n"+b, "v"))
@@ -205,7 +196,7 @@ func TestTextOfWrong(t *testing.T) {
 func TestTextOfEachByte(t *testing.T) {
 	for n := range 256 {
 		b := string([]byte{byte(n)})
-		token, value := isToken(byte(n)), isValue(byte(n))
+		token, value := samples.IsToken(byte(n)), samples.IsValue(byte(n))
 		for _, name := range []string{b, "x" + b, b + "x"} {
 			if token {
 				written(t, row(name, "v"), name+"=v", api.OK)
@@ -288,32 +279,8 @@ func TestSet(t *testing.T) {
 	}
 }
 
-// textsOf is every row of units up to a length, one behind the other.
-func textsOf(units []string, most int) []string {
-	all := []string{""}
-	for i := 0; i < len(all); i++ {
-		for _, u := range units {
-			if len(all[i])+len(u) <= most {
-				all = append(all, all[i]+u)
-			}
-		}
-	}
-	return all
-}
-
-// bytesOf is each byte of an alphabet that is so.
-func bytesOf(alphabet string, is func(b byte) bool) []string {
-	units := []string{}
-	for _, b := range []byte(alphabet) {
-		if is(b) {
-			units = append(units, string([]byte{b}))
-		}
-	}
-	return units
-}
-
 // isPlain: a byte of a value that in quotes stands for itself.
-func isPlain(b byte) bool { return isValue(b) && b != '"' && b != '\\' }
+func isPlain(b byte) bool { return samples.IsValue(b) && b != '"' && b != '\\' }
 
 // meaning is a text of a value, and the value that is meant by it.
 type meaning struct{ text, value string }
@@ -324,11 +291,11 @@ func quotes(alphabet string, most int) []meaning {
 		return nil
 	}
 	units := []meaning{}
-	for _, u := range bytesOf(alphabet, isPlain) {
+	for _, u := range samples.Bytes(alphabet, isPlain) {
 		units = append(units, meaning{u, u})
 	}
 	if strings.Contains(alphabet, `\`) {
-		for _, u := range bytesOf(alphabet, isValue) {
+		for _, u := range samples.Bytes(alphabet, samples.IsValue) {
 			units = append(units, meaning{`\` + u, u})
 		}
 	}
@@ -351,7 +318,7 @@ type single struct {
 
 // singles is all params' texts of an alphabet up to a length.
 func singles(alphabet string, most int) []single {
-	tokens := textsOf(bytesOf(alphabet, isToken), most-2)[1:]
+	tokens := samples.Texts(samples.Bytes(alphabet, samples.IsToken), most-2)[1:]
 	values := quotes(alphabet, most-2)
 	for _, s := range tokens {
 		values = append(values, meaning{s, s})
@@ -370,7 +337,7 @@ func singles(alphabet string, most int) []single {
 // allRows is every row's text of an alphabet up to a length, with its params: written from the document's words, not read.
 func allRows(t *testing.T, alphabet string, most int) map[string][]api.Param {
 	t.Helper()
-	blanks := textsOf(bytesOf(alphabet, isBlank), most)
+	blanks := samples.Texts(samples.Bytes(alphabet, samples.IsBlank), most)
 	each := singles(alphabet, most)
 	all := map[string][]api.Param{}
 	texts := []string{}
@@ -411,7 +378,7 @@ func TestEveryShortText(t *testing.T) {
 	}{{`a=; `, 9}, {`a=;"`, 9}, {`a=;"\ `, 7}, {"A=;\"\\\t,\n", 6}} {
 		all := allRows(t, c.alphabet, c.most)
 		right, wrong := 0, 0
-		for _, s := range textsOf(bytesOf(c.alphabet, func(byte) bool { return true }), c.most) {
+		for _, s := range samples.Texts(samples.Each(c.alphabet), c.most) {
 			if want, is := all[s]; is {
 				right++
 				parsed(t, s, want, api.OK)
@@ -463,7 +430,7 @@ func TestParseOfText(t *testing.T) {
 	for _, l := range rowsOf(paramsOf([]string{"a", "A", "b", "~"}, []string{"", "1", " ", `;"`, `\`, "=\t", "\xff"}), 3)[1:] {
 		check(l)
 	}
-	for _, value := range textsOf(bytesOf("a;=\"\\ \t,\x80", isValue), 4) {
+	for _, value := range samples.Texts(samples.Bytes("a;=\"\\ \t,\x80", samples.IsValue), 4) {
 		check(row("n", value))
 		check(row("n", value, "m", value))
 	}

@@ -1,0 +1,60 @@
+// Package samples makes texts for the layers' tests. No layer calls it, and it calls none: a fault of a layer is not to be handed on to what it is held against.
+package samples
+
+import "strings"
+
+const (
+	letters = "abcdefghijklmnopqrstuvwxyzABCDEFGHIJKLMNOPQRSTUVWXYZ"
+	digits  = "0123456789"
+)
+
+// IsLetter: a letter of ASCII.
+func IsLetter(b byte) bool { return strings.IndexByte(letters, b) >= 0 }
+
+// IsDigit: a digit.
+func IsDigit(b byte) bool { return strings.IndexByte(digits, b) >= 0 }
+
+// IsHex: a digit to the base of 16.
+func IsHex(b byte) bool { return strings.IndexByte(digits+"abcdefABCDEF", b) >= 0 }
+
+// IsBlank: a blank or a tab.
+func IsBlank(b byte) bool { return b == 9 || b == 32 }
+
+// IsToken: a token's byte.
+func IsToken(b byte) bool { return strings.IndexByte(letters+digits+"!#$%&'*+-.^_`|~", b) >= 0 }
+
+// IsValue: a byte of a field's value.
+func IsValue(b byte) bool { return b == 9 || b >= 32 && b != 127 }
+
+// IsUnreserved: a byte that stands for itself in a URI.
+func IsUnreserved(b byte) bool { return strings.IndexByte(letters+digits+"-._~", b) >= 0 }
+
+// IsSub: a byte that parts a part of a URI.
+func IsSub(b byte) bool { return strings.IndexByte("!$&'()*+,;=", b) >= 0 }
+
+// Texts: every row of units up to a length, one behind the other, the empty one first.
+func Texts(units []string, most int) []string {
+	all := []string{""}
+	for i := 0; i < len(all); i++ {
+		for _, u := range units {
+			if len(all[i])+len(u) <= most {
+				all = append(all, all[i]+u)
+			}
+		}
+	}
+	return all
+}
+
+// Bytes: each byte of an alphabet that is so.
+func Bytes(alphabet string, is func(b byte) bool) []string {
+	var units []string
+	for i := range len(alphabet) {
+		if is(alphabet[i]) {
+			units = append(units, alphabet[i:i+1])
+		}
+	}
+	return units
+}
+
+// Each: each byte of an alphabet.
+func Each(alphabet string) []string { return Bytes(alphabet, func(byte) bool { return true }) }
