@@ -65,28 +65,10 @@ func under(t *testing.T, name, domain string, want bool) {
 // isPlain: a byte that stands for itself in a host's name.
 func isPlain(b byte) bool { return samples.IsUnreserved(b) || samples.IsSub(b) }
 
-// set is texts, to be asked for.
-type set map[string]bool
-
-func setOf(l ...string) set {
-	all := set{}
-	for _, s := range l {
-		all[s] = true
-	}
-	return all
-}
-
 // allNames is every host's name of an alphabet's bytes up to a length, made from the document's words.
-func allNames(alphabet string, most int) set {
-	units := samples.Bytes(alphabet, isPlain)
-	if strings.Contains(alphabet, "%") {
-		for _, a := range samples.Bytes(alphabet, samples.IsHex) {
-			for _, b := range samples.Bytes(alphabet, samples.IsHex) {
-				units = append(units, "%"+a+b)
-			}
-		}
-	}
-	return setOf(samples.Texts(units, most)[1:]...)
+func allNames(alphabet string, most int) samples.Set {
+	units := append(samples.Bytes(alphabet, isPlain), samples.Escapes(alphabet)...)
+	return samples.SetOf(samples.Texts(units, most)[1:]...)
 }
 
 // joined is each row of so many units with a mark between each two, up to a length.
@@ -115,7 +97,7 @@ func joined(units []string, mark string, count, most int) []string {
 }
 
 // allFours is every address of four of an alphabet's digits up to a length, made from the document's words.
-func allFours(alphabet string, most int) set {
+func allFours(alphabet string, most int) samples.Set {
 	units := []string{}
 	for n := range 256 {
 		if s := strconv.Itoa(n); strings.Trim(s, alphabet) == "" {
@@ -123,9 +105,9 @@ func allFours(alphabet string, most int) set {
 		}
 	}
 	if !strings.Contains(alphabet, ".") {
-		return set{}
+		return samples.Set{}
 	}
-	return setOf(joined(units, ".", 4, most)...)
+	return samples.SetOf(joined(units, ".", 4, most)...)
 }
 
 // groupsOf is every group of an alphabet's digits.
@@ -134,8 +116,8 @@ func groupsOf(alphabet string) []string {
 }
 
 // allSixes is every address of six of some groups, and of some addresses of four, up to a length, made from the document's words.
-func allSixes(groups, fours []string, most int) set {
-	all := set{}
+func allSixes(groups, fours []string, most int) samples.Set {
+	all := samples.Set{}
 	put := func(s string) {
 		if len(s) <= most {
 			all[s] = true
@@ -346,7 +328,7 @@ func TestSixOfEveryShortText(t *testing.T) {
 func TestSixOfEveryRow(t *testing.T) {
 	// Each piece is one letter, so that rows are counted by their pieces.
 	spell := strings.NewReplacer("g", "1", "f", "1.1.1.1")
-	all := set{}
+	all := samples.Set{}
 	for s := range allSixes([]string{"g"}, []string{"f"}, 15) {
 		all[spell.Replace(s)] = true
 	}
@@ -577,7 +559,7 @@ func TestTextOfEveryHost(t *testing.T) {
 // P8.2: Text of every row of a kind, a name and a port that are near hosts, against what Parse tells of texts.
 func TestTextOfEveryNearHost(t *testing.T) {
 	const most = 7
-	isName := setOf(samples.Texts([]string{"a", "1", "%41", "1.1.1.1"}, most)[1:]...)
+	isName := samples.SetOf(samples.Texts([]string{"a", "1", "%41", "1.1.1.1"}, most)[1:]...)
 	for _, name := range samples.Texts(append(samples.Each("a:[]1"), "1.1.1.1", "%41"), most) {
 		for kind := api.HostKind(-1); kind <= 4; kind++ {
 			is := kind == api.HostName && isName[name] && name != "1.1.1.1" ||

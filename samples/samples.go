@@ -32,6 +32,9 @@ func IsUnreserved(b byte) bool { return strings.IndexByte(letters+digits+"-._~",
 // IsSub: a byte that parts a part of a URI.
 func IsSub(b byte) bool { return strings.IndexByte("!$&'()*+,;=", b) >= 0 }
 
+// IsPath: a byte of a path that is no mark of it and in no escape.
+func IsPath(b byte) bool { return IsUnreserved(b) || IsSub(b) || b == ':' || b == '@' }
+
 // Texts: every row of units up to a length, one behind the other, the empty one first.
 func Texts(units []string, most int) []string {
 	all := []string{""}
@@ -56,5 +59,30 @@ func Bytes(alphabet string, is func(b byte) bool) []string {
 	return units
 }
 
+// Escapes: each escape of an alphabet that has their mark, by its digits.
+func Escapes(alphabet string) []string {
+	var units []string
+	if strings.Contains(alphabet, "%") {
+		for _, digits := range Texts(Bytes(alphabet, IsHex), 2) {
+			if len(digits) == 2 {
+				units = append(units, "%"+digits)
+			}
+		}
+	}
+	return units
+}
+
 // Each: each byte of an alphabet.
 func Each(alphabet string) []string { return Bytes(alphabet, func(byte) bool { return true }) }
+
+// Set is texts, to be asked for.
+type Set map[string]bool
+
+// SetOf: some texts.
+func SetOf(l ...string) Set {
+	all := Set{}
+	for _, s := range l {
+		all[s] = true
+	}
+	return all
+}
