@@ -75,6 +75,21 @@ func Escapes(alphabet string) []string {
 // Each: each byte of an alphabet.
 func Each(alphabet string) []string { return Bytes(alphabet, func(byte) bool { return true }) }
 
+// Nearby: every text that is another one but for one byte: each of the 256 ahead of each place and in the stead of the one there, and each left out; and each beginning and each end of it.
+func Nearby(s string) []string {
+	var all []string
+	for i := range len(s) + 1 {
+		ahead, behind := s[:i], s[i:]
+		rest := behind[min(1, len(behind)):]
+		for n := range 256 {
+			b := string([]byte{byte(n)})
+			all = append(all, ahead+b+behind, ahead+b+rest)
+		}
+		all = append(all, ahead, behind, ahead+rest)
+	}
+	return all
+}
+
 // Set is texts, to be asked for.
 type Set map[string]bool
 

@@ -332,18 +332,8 @@ func TestParseOfEveryShortText(t *testing.T) {
 // P10.1: each of the 256 bytes at each place of targets, in the stead of the one there and ahead of it, and each of these left out, against the document's words.
 func TestEachByteAtEachPlace(t *testing.T) {
 	for _, s := range []string{"/a?b%41", "http://a:80/p?q", "HTTPs://[::1]:0?", "http://1.2.3.4/", "a%4f:65535", "[1::]:8", "*"} {
-		for i := range len(s) + 1 {
-			for n := range 256 {
-				heldAgainstWords(t, s[:i]+string([]byte{byte(n)})+s[i:])
-				if i < len(s) {
-					heldAgainstWords(t, s[:i]+string([]byte{byte(n)})+s[i+1:])
-				}
-			}
-			heldAgainstWords(t, s[:i])
-			heldAgainstWords(t, s[i:])
-			if i < len(s) {
-				heldAgainstWords(t, s[:i]+s[i+1:])
-			}
+		for _, nearby := range samples.Nearby(s) {
+			heldAgainstWords(t, nearby)
 		}
 	}
 }
